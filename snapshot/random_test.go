@@ -6,8 +6,8 @@ import (
 	"testing"
 
 	"bitemporal/api"
-	"bitemporal/expr"
 	"bitemporal/snapshot"
+	"bitemporal/testkit"
 	"bitemporal/tuple"
 )
 
@@ -80,14 +80,14 @@ func run(t *testing.T, p api.Plan, in []api.Bag) (api.Bag, api.Errno) {
 
 // TestRandomPlans compares the results of random plans, some of which are damaged, with the model.
 func TestRandomPlans(t *testing.T) {
-	m, seen, ops := &maker{next: random(1)}, map[api.Errno]int{}, map[int]int{}
+	m, seen, ops := &maker{Maker: testkit.New(1)}, map[api.Errno]int{}, map[int]int{}
 	for i := range 16000 {
-		m.in = make([][]int, m.next(3))
+		m.in = make([][]int, m.Below(3))
 		for j := range m.in {
-			m.in[j] = m.kinds([]int{3, 14}[m.next(8)/7])
+			m.in[j] = m.Kinds([]int{3, 14}[m.Below(8)/7])
 		}
-		in := m.bags([]int{2, 5, 9}[m.next(3)])
-		p, _ := m.plan(1 + m.next(4))
+		in := m.bags([]int{2, 5, 9}[m.Below(3)])
+		p, _ := m.plan(1 + m.Below(4))
 		if i%3 == 0 {
 			m.damaged(&p)
 		}
@@ -121,10 +121,10 @@ func count(p api.Plan, ops map[int]int) {
 
 // TestFunctionsAgreeWithRun compares the functions for operators with Run of a plan with the operator, and thus with the model.
 func TestFunctionsAgreeWithRun(t *testing.T) {
-	m := &maker{next: random(2)}
+	m := &maker{Maker: testkit.New(2)}
 	for range 2500 {
-		m.in = [][]int{m.kinds(4)}
-		m.in = append(m.in, m.in[0], m.kinds(4))
+		m.in = [][]int{m.Kinds(4)}
+		m.in = append(m.in, m.in[0], m.Kinds(4))
 		in := m.bags(7)
 		a, b, c := in[0], in[1], in[2]
 		before := image(in)
@@ -140,11 +140,11 @@ func TestFunctionsAgreeWithRun(t *testing.T) {
 				t.Fatalf("the result for %+v shares memory: %v", p, got)
 			}
 		}
-		e := m.predicate(a.Kinds, nil)
+		e := m.Predicate(a.Kinds, nil)
 		compare(snapshot.Filter(a, e), api.Plan{Op: api.PlanFilter, Pred: e}, scans[0])
-		l := m.projection(scans[0], a.Kinds, m.kinds(4)).Exprs
+		l := m.projection(scans[0], a.Kinds, m.Kinds(4)).Exprs
 		compare(snapshot.Project(a, l), api.Plan{Op: api.PlanProject, Exprs: l}, scans[0])
-		e = m.predicate(a.Kinds, c.Kinds)
+		e = m.Predicate(a.Kinds, c.Kinds)
 		compare(snapshot.Join(a, c, e, false), api.Plan{Op: api.PlanJoin, Pred: e}, scans[0], scans[2])
 		compare(snapshot.Join(a, c, e, true), api.Plan{Op: api.PlanLeft, Pred: e}, scans[0], scans[2])
 		compare(snapshot.Union(a, b), api.Plan{Op: api.PlanUnion}, scans[0], scans[1])
@@ -163,16 +163,16 @@ func TestFunctionsAgreeWithRun(t *testing.T) {
 
 // TestSameAgreesWithTheDefinition compares Same for random bags with their numbers of rows.
 func TestSameAgreesWithTheDefinition(t *testing.T) {
-	m, seen := &maker{next: random(3)}, map[bool]int{}
+	m, seen := &maker{Maker: testkit.New(3)}, map[bool]int{}
 	for range 20000 {
-		m.in = [][]int{m.kinds(1), m.kinds(2)}
+		m.in = [][]int{m.Kinds(1), m.Kinds(2)}
 		m.in = append(m.in, m.in[0])
 		in := m.bags(4)
-		if m.chance(3) {
+		if m.Chance(3) {
 			in[2].Rows = shuffled(m, in[0].Rows)
 		}
-		if m.chance(9) {
-			in[2].Kinds = m.kinds(3)
+		if m.Chance(9) {
+			in[2].Kinds = m.Kinds(3)
 		}
 		for _, other := range in[1:] {
 			want := true
@@ -194,7 +194,7 @@ func TestSameAgreesWithTheDefinition(t *testing.T) {
 func shuffled(m *maker, l [][]api.Value) [][]api.Value {
 	l = slices.Clone(l)
 	for i := range l {
-		j := m.next(i + 1)
+		j := m.Below(i + 1)
 		l[i], l[j] = l[j], l[i]
 	}
 	return l
@@ -202,13 +202,13 @@ func shuffled(m *maker, l [][]api.Value) [][]api.Value {
 
 // TestConsequences checks the laws of the chapter for random bags.
 func TestConsequences(t *testing.T) {
-	m := &maker{next: random(4)}
+	m := &maker{Maker: testkit.New(4)}
 	for range 4000 {
-		m.in = [][]int{m.kinds(3)}
+		m.in = [][]int{m.Kinds(3)}
 		m.in = append(m.in, m.in[0])
 		in := m.bags(8)
 		a, b := in[0], in[1]
-		e := m.predicate(a.Kinds, nil)
+		e := m.Predicate(a.Kinds, nil)
 		same := func(name string, x, y api.Bag) {
 			t.Helper()
 			if !snapshot.Same(x, y) {
@@ -219,9 +219,9 @@ func TestConsequences(t *testing.T) {
 		same("Filter and Union", snapshot.Filter(snapshot.Union(a, b), e), snapshot.Union(snapshot.Filter(a, e), snapshot.Filter(b, e)))
 		same("Filter and Distinct", snapshot.Filter(snapshot.Distinct(a), e), snapshot.Distinct(snapshot.Filter(a, e)))
 		same("Distinct and Union", snapshot.Distinct(snapshot.Union(a, b)), snapshot.Distinct(snapshot.Union(snapshot.Distinct(a), snapshot.Distinct(b))))
-		keys := []int{m.next(len(a.Kinds))}
-		for m.chance(2) {
-			keys = append(keys, m.next(len(a.Kinds)))
+		keys := []int{m.Below(len(a.Kinds))}
+		for m.Chance(2) {
+			keys = append(keys, m.Below(len(a.Kinds)))
 		}
 		var columns []api.Expr
 		for _, k := range keys {
@@ -240,9 +240,9 @@ func TestConsequences(t *testing.T) {
 
 // TestOrderOfInputs checks that the result does not depend on the order of the rows of the inputs.
 func TestOrderOfInputs(t *testing.T) {
-	m := &maker{next: random(5)}
+	m := &maker{Maker: testkit.New(5)}
 	for range 4000 {
-		m.in = [][]int{m.kinds(3), m.kinds(3)}
+		m.in = [][]int{m.Kinds(3), m.Kinds(3)}
 		in := m.bags(6)
 		p, _ := m.plan(3)
 		if rowsOf(p, in) > 250 {
@@ -260,39 +260,39 @@ func TestOrderOfInputs(t *testing.T) {
 
 // TestAnyArguments calls the functions with arguments for which nothing is promised but that they return.
 func TestAnyArguments(t *testing.T) {
-	m := &maker{next: random(6)}
-	number := func() int { return []int{-1 << 63, 1<<63 - 1, -1, 0, 1, 2, 3, 4, 5, 99}[m.next(10)] }
+	m := &maker{Maker: testkit.New(6)}
+	number := func() int { return []int{-1 << 63, 1<<63 - 1, -1, 0, 1, 2, 3, 4, 5, 99}[m.Below(10)] }
 	numbers := func() []int {
 		var l []int
-		for m.next(4) > 0 {
+		for m.Below(4) > 0 {
 			l = append(l, number())
 		}
 		return l
 	}
 	bag := func() api.Bag {
-		b := api.Bag{Kinds: numbers(), Rows: m.rows(m.kinds(4), 3)}
-		for m.chance(2) {
-			b.Rows = append(b.Rows, m.rows(m.kinds(4), 1)...)
+		b := api.Bag{Kinds: numbers(), Rows: m.Rows(m.Kinds(4), 3)}
+		for m.Chance(2) {
+			b.Rows = append(b.Rows, m.Rows(m.Kinds(4), 1)...)
 			b.Rows = append(b.Rows, []api.Value{{Kind: number(), Int: number(), Text: "\x00"}}, nil)
 		}
 		return b
 	}
 	expression := func() api.Expr {
-		e := m.predicate(m.kinds(4), m.kinds(4))
-		if m.chance(3) {
+		e := m.Predicate(m.Kinds(4), m.Kinds(4))
+		if m.Chance(3) {
 			e.Op, e.Int = number(), number()
 		}
-		if m.chance(5) {
+		if m.Chance(5) {
 			e = operation(api.OpEq, column(number()), column(number()))
 		}
 		return e
 	}
 	for range 20000 {
 		a, b := bag(), bag()
-		l := []api.Agg{{Op: number(), Arg: number()}, {Op: m.next(5), Arg: number()}}
+		l := []api.Agg{{Op: number(), Arg: number()}, {Op: m.Below(5), Arg: number()}}
 		for _, got := range []api.Bag{
-			snapshot.Filter(a, expression()), snapshot.Project(a, []api.Expr{expression(), column(m.next(3))}),
-			snapshot.Join(a, b, expression(), m.chance(2)), snapshot.Union(a, b), snapshot.Except(a, b),
+			snapshot.Filter(a, expression()), snapshot.Project(a, []api.Expr{expression(), column(m.Below(3))}),
+			snapshot.Join(a, b, expression(), m.Chance(2)), snapshot.Union(a, b), snapshot.Except(a, b),
 			snapshot.Intersect(a, b), snapshot.Distinct(a), snapshot.Group(a, numbers(), l), snapshot.Group(a, nil, nil),
 		} {
 			if !slices.IsSortedFunc(got.Rows, tuple.Compare) || sharesMemory(got, a, b) {
@@ -302,29 +302,13 @@ func TestAnyArguments(t *testing.T) {
 		if !snapshot.Same(a, a) {
 			t.Fatal(a)
 		}
-		m.in = [][]int{m.kinds(3), m.kinds(3)}
+		m.in = [][]int{m.Kinds(3), m.Kinds(3)}
 		p, _ := m.plan(3)
 		m.damaged(&p)
 		in := []api.Bag{{Kinds: m.in[0], Rows: a.Rows}, {Kinds: m.in[1], Rows: b.Rows}, a}
 		got, err := snapshot.Run(p, in)
 		if kinds, wantErr := snapshot.Check(p, [][]int{m.in[0], m.in[1], a.Kinds}); err != wantErr || !slices.Equal(got.Kinds, kinds) {
 			t.Fatalf("%+v: %v, %d; want %v, %d", p, got, err, kinds, wantErr)
-		}
-	}
-}
-
-// TestPredicates checks that the predicates of the maker are often true, but not always.
-func TestPredicates(t *testing.T) {
-	m, seen := &maker{next: random(7)}, map[int]int{}
-	for range 10000 {
-		kinds := m.kinds(4)
-		for _, row := range m.rows(kinds, 3) {
-			seen[expr.Truth(m.predicate(kinds, nil), row)]++
-		}
-	}
-	for _, truth := range []int{api.False, api.Unknown, api.True} {
-		if seen[truth] < 1000 {
-			t.Error(seen)
 		}
 	}
 }
