@@ -140,20 +140,14 @@ func TestConsequences(t *testing.T) {
 	m := testkit.New(4)
 	for range 5000 {
 		r := m.Relation(m.Kinds(3), 7)
-		same := func(name string, a, b api.Relation) {
-			t.Helper()
-			if !slices.Equal(a.Kinds, b.Kinds) || !testkit.Identical(a.Facts, b.Facts) {
-				t.Fatalf("%s: %v, %v from %v", name, a, b, r)
-			}
-		}
 		l := projection(m, r.Kinds)
 		q := project.Project(r, l)
 		e := m.Predicate(q.Kinds, nil)
-		same("Substitute", project.Filter(q, e), project.Project(project.Filter(r, expr.Substitute(e, l)), l))
+		testkit.Same(t, "Substitute", project.Filter(q, e), project.Project(project.Filter(r, expr.Substitute(e, l)), l))
 		canonical := api.Relation{Kinds: r.Kinds, Facts: coalesce.Bag(r.Facts)}
-		same("Longer by 1", project.Longer(r, 1), canonical)
+		testkit.Same(t, "Longer by 1", project.Longer(r, 1), canonical)
 		n, o := someNumber(m), someNumber(m)
-		same("Longer twice", project.Longer(project.Longer(r, n), o), project.Longer(r, max(n, o)))
+		testkit.Same(t, "Longer twice", project.Longer(project.Longer(r, n), o), project.Longer(r, max(n, o)))
 		p, number := m.Period(), 0
 		for rel := range api.Relations {
 			number += len(project.Touching(r, rel, p).Facts)
@@ -169,15 +163,7 @@ func TestEquivalentRelations(t *testing.T) {
 	m := testkit.New(5)
 	for range 4000 {
 		r := m.Relation(m.Kinds(2), 7)
-		other := api.Relation{Kinds: r.Kinds}
-		for _, f := range r.Facts {
-			g := f
-			if at := f.Valid.From + 1 + m.Below(4); at < f.Valid.To {
-				f.Valid.To, g.Valid.From = at, at
-				other.Facts = append(other.Facts, g)
-			}
-			other.Facts = slices.Insert(other.Facts, m.Below(len(other.Facts)+1), f)
-		}
+		other := m.Equivalent(r)
 		l, e, n := projection(m, r.Kinds), m.Predicate(r.Kinds, nil), someNumber(m)
 		rel, p := m.Below(api.Relations), m.Period()
 		results := func(r api.Relation) []api.Relation {
@@ -192,28 +178,15 @@ func TestEquivalentRelations(t *testing.T) {
 // TestAnyArguments calls the functions with arguments for which nothing is promised but that they return.
 func TestAnyArguments(t *testing.T) {
 	m := testkit.New(6)
-	number := func() int {
-		return []int{math.MinInt, math.MaxInt, -1, 0, 1, 2, 3, api.Forever, -api.Forever}[m.Below(9)]
-	}
 	for range 10000 {
-		r := m.Relation(m.Kinds(3), 4)
-		for range m.Below(4) {
-			f := api.Fact{Valid: m.AnyPeriod()}
-			for range m.Below(4) {
-				f.Row = append(f.Row, api.Value{Kind: number(), Int: number(), Text: "\x00"})
-			}
-			r.Facts = append(r.Facts, f)
-		}
-		if m.Chance(2) {
-			r.Kinds = []int{number(), number(), number()}[:m.Below(4)]
-		}
+		r := m.AnyRelation(4)
 		e := m.Predicate(m.Kinds(4), nil)
 		if m.Chance(3) {
-			e.Op, e.Int = number(), number()
+			e.Op, e.Int = m.AnyNumber(), m.AnyNumber()
 		}
 		for _, got := range []api.Relation{
-			project.Filter(r, e), project.Project(r, []api.Expr{e, testkit.Column(number())}), project.Project(r, nil),
-			project.Longer(r, number()), project.Touching(r, number(), m.AnyPeriod()), project.Shift(r, number()),
+			project.Filter(r, e), project.Project(r, []api.Expr{e, testkit.Column(m.AnyNumber())}), project.Project(r, nil),
+			project.Longer(r, m.AnyNumber()), project.Touching(r, m.AnyNumber(), m.AnyPeriod()), project.Shift(r, m.AnyNumber()),
 		} {
 			if !coalesce.Canonical(got.Facts) || testkit.SharesMemory(got, r) {
 				t.Fatal(got, r)

@@ -7,6 +7,7 @@ import (
 	"bitemporal/rowkey"
 	"bitemporal/tuple"
 	"bitemporal/value"
+	"bitemporal/widesum"
 )
 
 // collection is a group: its key columns and its rows.
@@ -81,18 +82,11 @@ func valuesOf(rows [][]api.Value, column int) []api.Value {
 	return l
 }
 
-// sum returns the sum of integers, or a null if it is out of range. It adds the upper and the lower bits of the numbers separately, as the sum of all of them may be too great for an int.
+// sum returns the sum of integers, or a null if it is out of range.
 func sum(l []api.Value) api.Value {
-	const bits = 32
-	upper, lower := 0, 0
+	var s widesum.Sum
 	for _, v := range l {
-		upper += v.Int >> bits
-		lower += v.Int & (1<<bits - 1)
+		s.Add(v.Int)
 	}
-	upper += lower >> bits
-	lower &= 1<<bits - 1
-	if max(upper, -upper) > api.MaxNumber>>bits {
-		return value.Null()
-	}
-	return value.Int(upper<<bits + lower)
+	return s.Value()
 }

@@ -85,24 +85,8 @@ func (m *maker) projection(p api.Plan, from, to []int) api.Plan {
 
 func (m *maker) group(p api.Plan, kinds []int) (api.Plan, []int) {
 	q := api.Plan{Op: api.PlanGroup, Inputs: []api.Plan{p}}
-	var result []int
-	for m.Chance(2) {
-		q.Keys = append(q.Keys, m.Below(len(kinds)))
-		result = append(result, kinds[q.Keys[len(q.Keys)-1]])
-	}
-	for m.Below(3) > 0 || len(result) == 0 {
-		a := api.Agg{Op: api.AggCount + m.Below(4), Arg: m.Below(len(kinds)+1) - 1}
-		kind := api.KindInt
-		switch {
-		case a.Arg == -1 || a.Op == api.AggSum && kinds[a.Arg] != api.KindInt:
-			a.Op = api.AggCount
-		case a.Op == api.AggMin || a.Op == api.AggMax:
-			kind = kinds[a.Arg]
-		}
-		q.Aggs = append(q.Aggs, a)
-		result = append(result, kind)
-	}
-	return q, result
+	q.Keys, q.Aggs = m.Grouping(kinds)
+	return q, grouped(q, kinds)
 }
 
 // damaged changes something in a plan, which it may also leave as good as it was.

@@ -5,7 +5,31 @@ import (
 
 	"bitemporal/api"
 	"bitemporal/coalesce"
+	"bitemporal/value"
 )
+
+// Fact returns a fact with a row of integers, texts, booleans, and nil for a null.
+func Fact(from, to int, row ...any) api.Fact {
+	f := api.Fact{Valid: api.Period{From: from, To: to}}
+	for _, x := range row {
+		v := value.Null()
+		switch x := x.(type) {
+		case int:
+			v = value.Int(x)
+		case string:
+			v = value.Text(x)
+		case bool:
+			v = value.Bool(x)
+		}
+		f.Row = append(f.Row, v)
+	}
+	return f
+}
+
+// Numbers returns a relation with columns of integers.
+func Numbers(columns int, l ...api.Fact) api.Relation {
+	return api.Relation{Kinds: slices.Repeat([]int{api.KindInt}, columns), Facts: l}
+}
 
 // Bounds returns the numbers that the bounds of the periods of a maker are taken from, in ascending order.
 func Bounds() []int {
@@ -34,6 +58,43 @@ func (m *Maker) Relation(kinds []int, most int) api.Relation {
 		r.Facts = append(r.Facts, api.Fact{Row: row[:len(kinds)], Valid: m.Period()})
 	}
 	r.Facts = append(r.Facts, api.Fact{Valid: m.AnyPeriod()})[:len(r.Facts)]
+	return r
+}
+
+// Equivalent returns a relation with the same snapshots, some of whose facts are divided, in another order.
+func (m *Maker) Equivalent(r api.Relation) api.Relation {
+	other := api.Relation{Kinds: slices.Clone(r.Kinds)}
+	for _, f := range r.Facts {
+		f.Row = slices.Clone(f.Row)
+		g := api.Fact{Row: slices.Clone(f.Row), Valid: f.Valid}
+		if at := f.Valid.From + 1 + m.Below(4); at < f.Valid.To {
+			f.Valid.To, g.Valid.From = at, at
+			other.Facts = append(other.Facts, g)
+		}
+		other.Facts = slices.Insert(other.Facts, m.Below(len(other.Facts)+1), f)
+	}
+	return other
+}
+
+// AnyNumber returns a number that is often neither an index nor a width nor a kind.
+func (m *Maker) AnyNumber() int {
+	l := []int{-1 << 63, -api.Forever, -1, 0, 1, 2, 3, 5, 99, api.Forever, 1<<63 - 1}
+	return l[m.Below(len(l))]
+}
+
+// AnyRelation returns a relation that is often not valid.
+func (m *Maker) AnyRelation(most int) api.Relation {
+	r := m.Relation(m.Kinds(3), most)
+	for range m.Below(4) {
+		f := api.Fact{Valid: m.AnyPeriod()}
+		for range m.Below(4) {
+			f.Row = append(f.Row, api.Value{Kind: m.AnyNumber(), Int: m.AnyNumber(), Text: "\x00"})
+		}
+		r.Facts = slices.Insert(r.Facts, m.Below(len(r.Facts)+1), f)
+	}
+	if m.Chance(2) {
+		r.Kinds = []int{m.AnyNumber(), m.AnyNumber(), m.AnyNumber()}[:m.Below(4)]
+	}
 	return r
 }
 

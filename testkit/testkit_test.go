@@ -8,6 +8,7 @@ import (
 	"bitemporal/coalesce"
 	"bitemporal/expr"
 	"bitemporal/period"
+	"bitemporal/snapshot"
 	"bitemporal/testkit"
 	"bitemporal/tuple"
 )
@@ -104,5 +105,98 @@ func TestMemory(t *testing.T) {
 	}
 	if got := testkit.Whole(r)[0]; len(got.Kinds) <= len(r.Kinds) || len(got.Facts) <= len(r.Facts) || len(got.Facts[0].Row) <= len(r.Facts[0].Row) {
 		t.Error(got)
+	}
+}
+
+// TestGroupings checks that groupings are such as a plan may have.
+func TestGroupings(t *testing.T) {
+	m, seen := testkit.New(4), map[int]int{}
+	for range 5000 {
+		kinds := m.Kinds(4)
+		keys, l := m.Grouping(kinds)
+		for _, p := range []api.Plan{{Keys: keys, Aggs: l}, {Aggs: m.Aggregates(kinds)}} {
+			p.Op, p.Inputs = api.PlanGroup, []api.Plan{{Op: api.PlanScan}}
+			if _, err := snapshot.Check(p, [][]int{kinds}); err != api.OK {
+				t.Fatal(kinds, p, err)
+			}
+			for _, a := range p.Aggs {
+				seen[a.Op]++
+			}
+		}
+		seen[-len(keys)]++
+	}
+	for _, n := range []int{-2, -1, 0, api.AggCount, api.AggSum, api.AggMin, api.AggMax} {
+		if seen[n] < 500 {
+			t.Error(n, seen)
+		}
+	}
+}
+
+// TestEquivalent checks that equivalent relations have the same snapshots, but often not the same facts.
+func TestEquivalent(t *testing.T) {
+	m, different := testkit.New(5), 0
+	for range 5000 {
+		r := m.Relation(m.Kinds(3), 8)
+		other := m.Equivalent(r)
+		if !slices.Equal(r.Kinds, other.Kinds) || !coalesce.Same(r.Facts, other.Facts) || testkit.SharesMemory(other, r) {
+			t.Fatal(r, other)
+		}
+		if len(r.Facts) != len(other.Facts) {
+			different++
+		}
+	}
+	if different < 3000 {
+		t.Error(different)
+	}
+}
+
+// TestAnyRelations checks that relations of any kind are sometimes valid.
+func TestAnyRelations(t *testing.T) {
+	m, seen := testkit.New(6), map[bool]int{}
+	for range 5000 {
+		r := m.AnyRelation(4)
+		isValid := true
+		for _, f := range r.Facts {
+			isValid = isValid && period.Valid(f.Valid) && tuple.Fits(f.Row, r.Kinds)
+		}
+		seen[isValid]++
+	}
+	if seen[true] < 500 || seen[false] < 500 {
+		t.Error(seen)
+	}
+}
+
+func TestFact(t *testing.T) {
+	got := testkit.Numbers(2, testkit.Fact(3, 7, 5, "x", true, nil)).Facts[0]
+	want := []api.Value{{Kind: api.KindInt, Int: 5}, {Kind: api.KindText, Text: "x"}, {Kind: api.KindBool, Int: 1}, {}}
+	if got.Valid != (api.Period{From: 3, To: 7}) || !slices.Equal(got.Row, want) || !slices.Equal(testkit.Numbers(2).Kinds, []int{api.KindInt, api.KindInt}) {
+		t.Error(got)
+	}
+}
+
+// reports counts what a test reports.
+type reports struct{ errors, fatals int }
+
+func (r *reports) Helper() {}
+
+func (r *reports) Errorf(string, ...any) { r.errors++ }
+
+func (r *reports) Fatalf(string, ...any) { r.fatals++ }
+
+func TestWantAndSame(t *testing.T) {
+	r := relation(3, 9, 1, 2)
+	others := []api.Relation{relation(3, 9, 2, 1), relation(3, 9, 1), relation(3, 8, 1, 2), {Facts: r.Facts}}
+	var got reports
+	testkit.Want(&got, "the same", r, r.Kinds, relation(3, 9, 1, 2).Facts)
+	testkit.Same(&got, "the same", r, relation(3, 9, 1, 2))
+	if got != (reports{}) {
+		t.Error("relations that are the same", got)
+	}
+	for i, o := range others {
+		testkit.Want(&got, "others", r, o.Kinds, o.Facts)
+		testkit.Same(&got, "others", r, o)
+		if got.errors != i+1 || got.fatals != i+1 {
+			t.Error("relations that differ", i, got)
+		}
 	}
 }

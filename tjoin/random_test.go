@@ -1,7 +1,6 @@
 package tjoin_test
 
 import (
-	"math"
 	"reflect"
 	"slices"
 	"testing"
@@ -187,22 +186,14 @@ func TestConsequences(t *testing.T) {
 // TestAnyArguments calls the joins with arguments for which nothing is promised but that they return.
 func TestAnyArguments(t *testing.T) {
 	m := testkit.New(4)
-	number := func() int { return []int{math.MinInt, math.MaxInt, -1, 0, 1, 2, 3, 5, 99}[m.Below(9)] }
-	relation := func() api.Relation {
-		r := api.Relation{Kinds: m.Kinds(3), Facts: append(someFacts(m, 4), someFacts(m, 2)...)}
-		if m.Chance(2) {
-			r.Kinds = []int{number(), number(), number()}[:m.Below(4)]
-		}
-		return r
-	}
 	for range 10000 {
-		a, b := relation(), relation()
+		a, b := m.AnyRelation(4), m.AnyRelation(4)
 		e := m.Predicate(m.Kinds(4), m.Kinds(4))
 		switch m.Below(4) {
 		case 0:
-			e.Op, e.Int = number(), number()
+			e.Op, e.Int = m.AnyNumber(), m.AnyNumber()
 		case 1:
-			e = compared(api.OpEq, number(), number())
+			e = compared(api.OpEq, m.AnyNumber(), m.AnyNumber())
 		}
 		for _, got := range []api.Relation{tjoin.Join(a, b, e), tjoin.Left(a, b, e), tjoin.Semi(a, b, e), tjoin.Anti(a, b, e)} {
 			if !coalesce.Canonical(got.Facts) || testkit.SharesMemory(got, a, b) {

@@ -13,32 +13,14 @@ import (
 
 const forever = api.Forever
 
-// fact returns a fact with a row of integers, texts, booleans, and nil for a null.
-func fact(from, to int, row ...any) api.Fact {
-	f := api.Fact{Valid: api.Period{From: from, To: to}}
-	for _, x := range row {
-		v := value.Null()
-		switch x := x.(type) {
-		case int:
-			v = value.Int(x)
-		case string:
-			v = value.Text(x)
-		case bool:
-			v = value.Bool(x)
-		}
-		f.Row = append(f.Row, v)
-	}
-	return f
-}
+func fact(from, to int, row ...any) api.Fact { return testkit.Fact(from, to, row...) }
 
 func facts(l ...api.Fact) []api.Fact { return l }
 
 func kinds(l ...int) []int { return l }
 
 // numbers returns a relation with one column of integers.
-func numbers(l ...api.Fact) api.Relation {
-	return api.Relation{Kinds: kinds(api.KindInt), Facts: l}
-}
+func numbers(l ...api.Fact) api.Relation { return testkit.Numbers(1, l...) }
 
 func constant(v api.Value) api.Expr { return testkit.Constant(v) }
 
@@ -53,21 +35,10 @@ type joins struct{ join, left, semi, anti []api.Fact }
 func testJoins(t *testing.T, name string, a, b api.Relation, e api.Expr, want joins) {
 	t.Helper()
 	both := slices.Concat(a.Kinds, b.Kinds)
-	for _, x := range []struct {
-		name  string
-		got   api.Relation
-		kinds []int
-		want  []api.Fact
-	}{
-		{"Join", tjoin.Join(a, b, e), both, want.join},
-		{"Left", tjoin.Left(a, b, e), both, want.left},
-		{"Semi", tjoin.Semi(a, b, e), a.Kinds, want.semi},
-		{"Anti", tjoin.Anti(a, b, e), a.Kinds, want.anti},
-	} {
-		if !slices.Equal(x.got.Kinds, x.kinds) || !testkit.Identical(x.got.Facts, x.want) {
-			t.Errorf("%s, %s: %v, want %v, %v", name, x.name, x.got, x.kinds, x.want)
-		}
-	}
+	testkit.Want(t, name+", Join", tjoin.Join(a, b, e), both, want.join)
+	testkit.Want(t, name+", Left", tjoin.Left(a, b, e), both, want.left)
+	testkit.Want(t, name+", Semi", tjoin.Semi(a, b, e), a.Kinds, want.semi)
+	testkit.Want(t, name+", Anti", tjoin.Anti(a, b, e), a.Kinds, want.anti)
 }
 
 func TestJoins(t *testing.T) {
