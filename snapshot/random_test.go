@@ -11,29 +11,6 @@ import (
 	"bitemporal/tuple"
 )
 
-// rowsOf returns an upper limit of the number of rows of a plan's result.
-func rowsOf(p api.Plan, in []api.Bag) int {
-	var l []int
-	for _, q := range p.Inputs {
-		l = append(l, rowsOf(q, in))
-	}
-	switch {
-	case p.Op == api.PlanScan && p.Int >= 0 && p.Int < len(in):
-		return len(in[p.Int].Rows)
-	case p.Op == api.PlanGroup && len(l) == 1:
-		return max(l[0], 1)
-	case len(l) == 1:
-		return l[0]
-	case p.Op == api.PlanUnion && len(l) == 2:
-		return l[0] + l[1]
-	case (p.Op == api.PlanJoin || p.Op == api.PlanLeft) && len(l) == 2:
-		return l[0] * max(l[1], 1)
-	case len(l) > 0:
-		return l[0]
-	}
-	return len(p.Rows)
-}
-
 // isBag reports whether a bag has these kinds, and these rows in ascending order.
 func isBag(b api.Bag, kinds []int, rows [][]api.Value) bool {
 	if !slices.Equal(b.Kinds, kinds) || len(b.Rows) != len(rows) || !slices.IsSortedFunc(b.Rows, tuple.Compare) {
@@ -80,51 +57,32 @@ func run(t *testing.T, p api.Plan, in []api.Bag) (api.Bag, api.Errno) {
 
 // TestRandomPlans compares the results of random plans, some of which are damaged, with the model.
 func TestRandomPlans(t *testing.T) {
-	m, seen, ops := &maker{Maker: testkit.New(1)}, map[api.Errno]int{}, map[int]int{}
+	m, seen := newMaker(1), testkit.NewCensus()
 	for i := range 16000 {
-		m.in = make([][]int, m.Below(3))
-		for j := range m.in {
-			m.in[j] = m.Kinds([]int{3, 14}[m.Below(8)/7])
+		m.In = make([][]int, m.Below(3))
+		for j := range m.In {
+			m.In[j] = m.Kinds([]int{3, 14}[m.Below(8)/7])
 		}
 		in := m.bags([]int{2, 5, 9}[m.Below(3)])
-		p, _ := m.plan(1 + m.Below(4))
+		p, _ := m.Plan(1 + m.Below(4))
 		if i%3 == 0 {
-			m.damaged(&p)
+			m.Damage(&p)
 		}
-		if rowsOf(p, in) > 250 {
+		if testkit.MostRows(p, rowsIn(in)) > 250 {
 			continue
 		}
 		_, err := run(t, p, in)
-		seen[err]++
-		if err == api.OK {
-			count(p, ops)
-		}
+		seen.Add(p, err)
 	}
-	for _, err := range []api.Errno{api.OK, api.ErrRange, api.ErrKind, api.ErrInvalid, api.ErrColumns} {
-		if seen[err] < 50 {
-			t.Error("too few plans of a kind", seen)
-		}
-	}
-	for op := api.PlanScan; op <= api.PlanGroup; op++ {
-		if ops[op] < 500 {
-			t.Error("too few nodes of a kind", ops)
-		}
-	}
-}
-
-func count(p api.Plan, ops map[int]int) {
-	ops[p.Op]++
-	for _, q := range p.Inputs {
-		count(q, ops)
-	}
+	seen.Check(t, api.OK, api.ErrRange, api.ErrKind, api.ErrInvalid, api.ErrColumns)
 }
 
 // TestFunctionsAgreeWithRun compares the functions for operators with Run of a plan with the operator, and thus with the model.
 func TestFunctionsAgreeWithRun(t *testing.T) {
-	m := &maker{Maker: testkit.New(2)}
+	m := newMaker(2)
 	for range 2500 {
-		m.in = [][]int{m.Kinds(4)}
-		m.in = append(m.in, m.in[0], m.Kinds(4))
+		m.In = [][]int{m.Kinds(4)}
+		m.In = append(m.In, m.In[0], m.Kinds(4))
 		in := m.bags(7)
 		a, b, c := in[0], in[1], in[2]
 		before := image(in)
@@ -142,7 +100,7 @@ func TestFunctionsAgreeWithRun(t *testing.T) {
 		}
 		e := m.Predicate(a.Kinds, nil)
 		compare(snapshot.Filter(a, e), api.Plan{Op: api.PlanFilter, Pred: e}, scans[0])
-		l := m.projection(scans[0], a.Kinds, m.Kinds(4)).Exprs
+		l := m.Projection(scans[0], a.Kinds, m.Kinds(4)).Exprs
 		compare(snapshot.Project(a, l), api.Plan{Op: api.PlanProject, Exprs: l}, scans[0])
 		e = m.Predicate(a.Kinds, c.Kinds)
 		compare(snapshot.Join(a, c, e, false), api.Plan{Op: api.PlanJoin, Pred: e}, scans[0], scans[2])
@@ -153,7 +111,7 @@ func TestFunctionsAgreeWithRun(t *testing.T) {
 		compare(snapshot.Union(a, a), api.Plan{Op: api.PlanUnion}, scans[0], scans[0])
 		compare(snapshot.Intersect(a, a), api.Plan{Op: api.PlanIntersect}, scans[0], scans[0])
 		compare(snapshot.Distinct(a), api.Plan{Op: api.PlanDistinct}, scans[0])
-		p, _ := m.group(scans[0], a.Kinds)
+		p, _ := m.Group(scans[0], a.Kinds)
 		compare(snapshot.Group(a, p.Keys, p.Aggs), p, scans[0])
 		if !reflect.DeepEqual(before, image(in)) {
 			t.Fatalf("an argument was changed: %v", in)
@@ -163,10 +121,10 @@ func TestFunctionsAgreeWithRun(t *testing.T) {
 
 // TestSameAgreesWithTheDefinition compares Same for random bags with their numbers of rows.
 func TestSameAgreesWithTheDefinition(t *testing.T) {
-	m, seen := &maker{Maker: testkit.New(3)}, map[bool]int{}
+	m, seen := newMaker(3), map[bool]int{}
 	for range 20000 {
-		m.in = [][]int{m.Kinds(1), m.Kinds(2)}
-		m.in = append(m.in, m.in[0])
+		m.In = [][]int{m.Kinds(1), m.Kinds(2)}
+		m.In = append(m.In, m.In[0])
 		in := m.bags(4)
 		if m.Chance(3) {
 			in[2].Rows = shuffled(m, in[0].Rows)
@@ -202,10 +160,10 @@ func shuffled(m *maker, l [][]api.Value) [][]api.Value {
 
 // TestConsequences checks the laws of the chapter for random bags.
 func TestConsequences(t *testing.T) {
-	m := &maker{Maker: testkit.New(4)}
+	m := newMaker(4)
 	for range 4000 {
-		m.in = [][]int{m.Kinds(3)}
-		m.in = append(m.in, m.in[0])
+		m.In = [][]int{m.Kinds(3)}
+		m.In = append(m.In, m.In[0])
 		in := m.bags(8)
 		a, b := in[0], in[1]
 		e := m.Predicate(a.Kinds, nil)
@@ -240,12 +198,12 @@ func TestConsequences(t *testing.T) {
 
 // TestOrderOfInputs checks that the result does not depend on the order of the rows of the inputs.
 func TestOrderOfInputs(t *testing.T) {
-	m := &maker{Maker: testkit.New(5)}
+	m := newMaker(5)
 	for range 4000 {
-		m.in = [][]int{m.Kinds(3), m.Kinds(3)}
+		m.In = [][]int{m.Kinds(3), m.Kinds(3)}
 		in := m.bags(6)
-		p, _ := m.plan(3)
-		if rowsOf(p, in) > 250 {
+		p, _ := m.Plan(3)
+		if testkit.MostRows(p, rowsIn(in)) > 250 {
 			continue
 		}
 		want, wantErr := snapshot.Run(p, in)
@@ -260,7 +218,7 @@ func TestOrderOfInputs(t *testing.T) {
 
 // TestAnyArguments calls the functions with arguments for which nothing is promised but that they return.
 func TestAnyArguments(t *testing.T) {
-	m := &maker{Maker: testkit.New(6)}
+	m := newMaker(6)
 	number := func() int { return []int{-1 << 63, 1<<63 - 1, -1, 0, 1, 2, 3, 4, 5, 99}[m.Below(10)] }
 	numbers := func() []int {
 		var l []int
@@ -302,12 +260,12 @@ func TestAnyArguments(t *testing.T) {
 		if !snapshot.Same(a, a) {
 			t.Fatal(a)
 		}
-		m.in = [][]int{m.Kinds(3), m.Kinds(3)}
-		p, _ := m.plan(3)
-		m.damaged(&p)
-		in := []api.Bag{{Kinds: m.in[0], Rows: a.Rows}, {Kinds: m.in[1], Rows: b.Rows}, a}
+		m.In = [][]int{m.Kinds(3), m.Kinds(3)}
+		p, _ := m.Plan(3)
+		m.Damage(&p)
+		in := []api.Bag{{Kinds: m.In[0], Rows: a.Rows}, {Kinds: m.In[1], Rows: b.Rows}, a}
 		got, err := snapshot.Run(p, in)
-		if kinds, wantErr := snapshot.Check(p, [][]int{m.in[0], m.in[1], a.Kinds}); err != wantErr || !slices.Equal(got.Kinds, kinds) {
+		if kinds, wantErr := snapshot.Check(p, [][]int{m.In[0], m.In[1], a.Kinds}); err != wantErr || !slices.Equal(got.Kinds, kinds) {
 			t.Fatalf("%+v: %v, %d; want %v, %d", p, got, err, kinds, wantErr)
 		}
 	}

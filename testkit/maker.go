@@ -1,4 +1,4 @@
-// Package testkit makes rows, expressions and relations for the tests of other packages, and compares relations. It is no layer of the program.
+// Package testkit makes rows, expressions, plans and relations for the tests of other packages, and compares relations. It is no layer of the program.
 package testkit
 
 import "bitemporal/api"
