@@ -368,11 +368,17 @@ func TestRowsBeyondCanonicalForms(t *testing.T) {
 	joined := node(api.PlanFilter, ones, node(api.PlanJoin, equal(0, 1), scan(0), scan(1)))
 	sevens := node(api.PlanProject, api.Plan{Exprs: []api.Expr{number(7)}}, joined)
 	p := node(api.PlanUnion, api.Plan{}, sevens, scan(2))
-	got, err := sequenced.Run(count(node(api.PlanExcept, api.Plan{}, p, values(7, 7))), in)
+	same := node(api.PlanIntersect, api.Plan{}, node(api.PlanExcept, api.Plan{}, p, values(8)), p)
+	got, err := sequenced.Run(count(same), in)
 	if err != api.OK {
 		t.Error(err)
 	}
-	testkit.Want(t, "a count", got, []int{kInt}, facts(fact(0, 3, 0), fact(9, forever, 0), fact(3, 5, m*n-2), fact(7, 9, m*n-2), fact(5, 7, m*n-1)))
+	testkit.Want(t, "a union", got, []int{kInt}, facts(fact(0, 3, 0), fact(9, forever, 0), fact(3, 5, m*n), fact(7, 9, m*n), fact(5, 7, m*n+1)))
+	got, err = sequenced.Run(count(node(api.PlanLeft, equal(0, 1), scan(0), scan(1))), in)
+	if err != api.OK {
+		t.Error(err)
+	}
+	testkit.Want(t, "a left join", got, []int{kInt}, facts(fact(9, forever, 0), fact(0, 3, m), fact(3, 9, m*n)))
 	if bag, err := sequenced.At(p, in, 6); err != api.OK || len(bag.Rows) != m*n+1 {
 		t.Error(len(bag.Rows), err)
 	}
