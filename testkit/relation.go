@@ -8,10 +8,10 @@ import (
 	"bitemporal/value"
 )
 
-// Fact returns a fact with a row of integers, texts, booleans, and nil for a null.
-func Fact(from, to int, row ...any) api.Fact {
-	f := api.Fact{Valid: api.Period{From: from, To: to}}
-	for _, x := range row {
+// Row returns a row of integers, texts, booleans, and nil for a null.
+func Row(l ...any) []api.Value {
+	var row []api.Value
+	for _, x := range l {
 		v := value.Null()
 		switch x := x.(type) {
 		case int:
@@ -21,9 +21,14 @@ func Fact(from, to int, row ...any) api.Fact {
 		case bool:
 			v = value.Bool(x)
 		}
-		f.Row = append(f.Row, v)
+		row = append(row, v)
 	}
-	return f
+	return row
+}
+
+// Fact returns a fact with such a row.
+func Fact(from, to int, row ...any) api.Fact {
+	return api.Fact{Row: Row(row...), Valid: api.Period{From: from, To: to}}
 }
 
 // Numbers returns a relation with columns of integers.
